@@ -1,6 +1,7 @@
 package tests
 
 import (
+	"math/rand"
 	"slices"
 	"testing"
 )
@@ -29,4 +30,24 @@ func shareMemory[T any](a, b []T) bool {
 		}
 	}
 	return false
+}
+
+// changedText replaces, inserts or deletes a few bytes of a text that is not empty.
+func changedText(r *rand.Rand, text, with string) string {
+	changed := []byte(text)
+	for range 1 + r.Intn(3) {
+		at := r.Intn(len(changed))
+		switch b := with[r.Intn(len(with))]; r.Intn(3) {
+		case 0:
+			changed[at] = b
+		case 1:
+			changed = slices.Insert(changed, at, b)
+		case 2:
+			changed = slices.Delete(changed, at, at+1)
+		}
+		if len(changed) == 0 {
+			return ""
+		}
+	}
+	return string(changed)
 }
